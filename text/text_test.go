@@ -124,15 +124,15 @@ func TestParseWrong(t *testing.T) {
 		{"0.0+10485760", api.ErrRange},
 		{"0.0+2147483648", api.ErrRange},
 		{"0.0+4294967296", api.ErrRange},
+		{"0.0+999999999999999999", api.ErrRange},
+		{"0.0-1000000000000000000", api.ErrRange},
+		{"0.0+9223372036854775806", api.ErrRange},
 		{"0.0+9223372036854775807", api.ErrRange},
-		{"0.0+9223372036854775808", api.ErrRange},
+		{"0.0-9223372036854775807", api.ErrRange},
 		{"0.0-9223372036854775808", api.ErrRange},
-		{"0.0-9223372036854775809", api.ErrRange},
-		{"0.0+18446744073709551616", api.ErrRange},
-		{"0.0-18446744073709551617", api.ErrRange},
-		{"0.0+184467440737095516160", api.ErrRange},
-		{"0.0+1" + strings.Repeat("0", 1000), api.ErrRange},
-		{"0.0-" + strings.Repeat("9", 1000), api.ErrRange},
+		{"0.1+1 0.1+9223372036854775807", api.ErrRange},
+		{"0.1+1 0.1+1 0.0-9223372036854775808", api.ErrMuch},
+		{"0.0+1 0.1+1 0.2+1 0.3+1 1.0+9223372036854775807", api.ErrMany},
 		{"0.0+1 1.0+1 3.0+1", api.ErrRange},
 		{"0.1+1 0.1+2", api.ErrMuch},
 		{"0.1+1 0.1+1", api.ErrMuch},
@@ -145,6 +145,26 @@ func TestParseWrong(t *testing.T) {
 		{"0.0+1 0.1+1 0.2+1 0.3+1 1.0+1 1.1+1", api.ErrMany},
 	} {
 		refused(t, c.s, c.want)
+	}
+}
+
+// Digits beyond Go's int write no number: that is told ahead of what part says, wherever the word stands.
+func TestParseBeyondInt(t *testing.T) {
+	for _, n := range []string{
+		"+9223372036854775808", "-9223372036854775809", "+9223372036854775810", "+9999999999999999999", "-10000000000000000000",
+		"+18446744073709551615", "+18446744073709551616", "-18446744073709551616", "+18446744073709551617", "-18446744073709551621",
+		"+184467440737095516160", "+340282366920938463463374607431768211457",
+		"+1" + strings.Repeat("0", 1000), "-" + strings.Repeat("9", 1000), "+1" + strings.Repeat("0", 100000),
+	} {
+		refused(t, "0.0"+n, api.ErrForm)
+		refused(t, "9.9"+n, api.ErrForm)
+		refused(t, "0.1+5 0.0"+n, api.ErrForm)
+		refused(t, "0.0"+n+" 0.1+5", api.ErrForm)
+		refused(t, "7.7+1 0.0"+n, api.ErrForm)
+		refused(t, "0.0"+n+" 0.0+1048577", api.ErrForm)
+		refused(t, "0.1+1 0.1+1 0.0"+n, api.ErrForm)
+		refused(t, "0.0+1 0.1+1 0.2+1 0.3+1 1.0"+n, api.ErrForm)
+		refused(t, "0.0+1 0.1+1 0.2+1 0.3+1 1.0+1 1.1"+n, api.ErrForm)
 	}
 }
 
@@ -241,7 +261,7 @@ func FuzzParse(f *testing.F) {
 	for _, c := range written {
 		f.Add(c.s)
 	}
-	for _, s := range []string{"", " ", "0.1-0", "0.1+05", "3.0+1", "0.0+1 0.0+1", "0.0+99999999999999999999"} {
+	for _, s := range []string{"", " ", "0.1-0", "0.1+05", "3.0+1", "0.0+1 0.0+1", "0.0+9223372036854775807", "0.0+99999999999999999999"} {
 		f.Add(s)
 	}
 	f.Fuzz(func(t *testing.T, s string) {
