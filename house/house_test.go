@@ -48,6 +48,25 @@ func some() []api.Rec {
 // again is a log of a house that is ready once more for what it did.
 func again() []api.Rec { return recs(ready(64, at(0, 5)), done(64), ready(64, at(1, 6))) }
 
+// TestOwn: a copy is the same, also of a house that no log makes, and shares nothing with it.
+func TestOwn(t *testing.T) {
+	odd := api.House{Sums: [4]int{1, -2, 3, most + 1}, Ready: []api.Ready{{Deed: -1}, {Deed: 9, Parts: parts(at(9, 9))}}, Done: []int{5, 5}}
+	for _, h := range []api.House{{}, {Log: recs(), Done: []int{}}, log.House(some()), crowded(), odd} {
+		want, before := told(h), roomy(h)
+		got := Own(h)
+		if told(got) != want {
+			t.Errorf("Own(%s) is %+v", want, got)
+		}
+		if spoilHouse(got); roomy(h) != before {
+			t.Errorf("behind Own what was handed in is %s, not %s", roomy(h), before)
+		}
+		got = Own(h)
+		if spoilHouse(h); told(got) != want {
+			t.Errorf("Own keeps what was handed in: %+v, not %s", got, want)
+		}
+	}
+}
+
 func TestVote(t *testing.T) {
 	below := recs(ready(64, at(0, -3), at(1, most)), done(64), ready(65, at(1, 9)), done(65))
 	for _, c := range []struct {
